@@ -82,6 +82,17 @@ func TestSets(t *testing.T) {
 	}
 }
 
+func TestCompose(t *testing.T) {
+	x, y := id(1, 3, 0), id(1, 3, 1)
+	l, m := []api.Link{link(b, y), link(a, x), link(a, y), link(a, x), link(c, c)}, []api.Link{link(y, b), link(x, b), link(x, a), link(b, b)}
+	if n := Compose(l, m); !slices.Equal(n, []api.Link{link(a, a), link(a, b), link(b, b)}) || l[0] != link(b, y) {
+		t.Error("P9.3:", n)
+	}
+	if n := Compose(l, nil); len(n) > 0 {
+		t.Error("P9.3:", n)
+	}
+}
+
 func TestLine(t *testing.T) {
 	p, q, end := id(1, 3, 0), id(1, 3, 1), id(2, 0, 0)
 	steps := [][]api.Link{{link(a, q), link(a, p)}, {link(p, end), link(q, end)}}

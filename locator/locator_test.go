@@ -223,6 +223,35 @@ func TestOn(t *testing.T) {
 	}
 }
 
+func TestPages(t *testing.T) {
+	x := example()
+	for state := range x.States {
+		code, _ := printing.Code(x, state)
+		c, _ := printing.Read(x, state)
+		for _, list := range [][]Range{{pages(1, 1)}, {pages(1, 3)}, {pages(1, 1), pages(3, 3)}, {pages(2, 3)}} {
+			l := Locator{code, 0, list}
+			named, e := On(x, state, l)
+			spans, _ := Spans(l)
+			on := map[int]bool{}
+			for _, n := range span.Pages(spans) {
+				on[n-1] = true
+			}
+			for _, id := range printing.Has(c) {
+				stands := slices.ContainsFunc(printing.Where(c, id), func(i int) bool { return on[i] })
+				if slices.Contains(named, id) != stands || e != api.OK {
+					t.Error("P20.10:", state, list, id, e)
+				}
+			}
+			if last := list[len(list)-1]; last.To.Page < 3 {
+				further := append(slices.Clone(list), pages(last.To.Page+2, last.To.Page+2))
+				if more, e := On(x, state, Locator{code, 0, further}); e == api.OK && len(more) < len(named) {
+					t.Error("P20.10: a further range:", state, list)
+				}
+			}
+		}
+	}
+}
+
 func TestExactly(t *testing.T) {
 	r := rand.New(rand.NewSource(2))
 	for range 500 {

@@ -7,6 +7,7 @@ import (
 	"testing"
 
 	"passim/api"
+	"passim/descent"
 	"passim/hash"
 	"passim/history"
 	"passim/vocabulary"
@@ -165,6 +166,7 @@ func TestProperties(t *testing.T) {
 			}
 			l, kept, _ := Find(h, i, k, ids)
 			checkKept(t, h, i, k, l, kept)
+			checkNeeded(t, h, i, k, ids, l)
 			if _, same, _ := Find(h, i, i, ids); len(same) != len(ids) {
 				t.Fatal("P28.7:", same, ids)
 			}
@@ -182,6 +184,28 @@ func TestProperties(t *testing.T) {
 					}
 				}
 			}
+		}
+	}
+}
+
+func checkNeeded(t *testing.T, h *history.History, i, k int, ids []api.ID, l []Item) {
+	before, _ := h.Edition(i)
+	after, _ := h.Edition(k)
+	links, _ := h.Links(i, k)
+	for _, x := range l {
+		if x.Why != Text {
+			continue
+		}
+		s, _ := work.Find(after, x.ID)
+		p, _ := work.At(after, s)
+		from := slices.DeleteFunc(descent.Up(links, x.ID), func(id api.ID) bool { return !slices.Contains(ids, id) })
+		other := func(id api.ID) bool {
+			s, _ := work.Find(before, id)
+			q, _ := work.At(before, s)
+			return q.Text != p.Text || q.Form != p.Form || q.Lang != p.Lang || len(descent.Down(links, id)) > 1
+		}
+		if len(from) < 2 && !slices.ContainsFunc(from, other) {
+			t.Fatal("P28.9:", x, from)
 		}
 	}
 }
