@@ -4,6 +4,7 @@ import (
 	"slices"
 
 	"passim/api"
+	"passim/parts"
 	"passim/wire"
 	"passim/work"
 )
@@ -111,42 +112,16 @@ func Encode(o api.Op) []byte {
 	return slices.Concat(wire.Ints(numbers), wire.Bytes(o.Text), wire.Strings(o.Texts), wire.Ints(pairs), wire.Ints(refs))
 }
 
-// reader reads the parts of an encoding, up to the first error.
-type reader struct {
-	b    []byte
-	used int
-	err  api.Errno
-}
-
-// read reads a part with a function of package wire, and returns the zero value behind an error.
-func read[T any](r *reader, get func([]byte) (T, int, api.Errno)) T {
-	var zero T
-	if r.err != api.OK {
-		return zero
-	}
-	x, n, e := get(r.b[r.used:])
-	r.used, r.err = r.used+n, e
-	return x
-}
-
-// numbers reads a list of numbers whose length fits.
-func (r *reader) numbers(fits func(n int) bool) []int {
-	l := read(r, wire.GetInts)
-	if r.err == api.OK && !fits(len(l)) {
-		r.err = api.ErrForm
-	}
-	return l
-}
-
 // Decode returns the operation with whose encoding b begins, and the length of the encoding.
 func Decode(b []byte) (api.Op, int, api.Errno) {
-	r := &reader{b: b}
-	n := r.numbers(func(n int) bool { return n == 13 })
-	text, texts := read(r, wire.GetBytes), read(r, wire.GetStrings)
-	pairs := r.numbers(func(n int) bool { return n%2 == 0 })
-	refs := r.numbers(func(n int) bool { return n%3 == 0 })
-	if r.err != api.OK {
-		return api.Op{}, 0, r.err
+	r := parts.Of(b)
+	n := parts.Next(r, wire.GetInts, func(l []int) bool { return len(l) == 13 })
+	text, texts := parts.Next(r, wire.GetBytes, parts.Any), parts.Next(r, wire.GetStrings, parts.Any)
+	pairs := parts.Next(r, wire.GetInts, func(l []int) bool { return len(l)%2 == 0 })
+	refs := parts.Next(r, wire.GetInts, func(l []int) bool { return len(l)%3 == 0 })
+	used, e := r.Used()
+	if e != api.OK {
+		return api.Op{}, 0, e
 	}
 	o := api.Op{Kind: n[0], At: api.ID{By: n[1], Seq: n[2], K: n[3]}, To: api.ID{By: n[4], Seq: n[5], K: n[6]},
 		Spot: api.Spot{Volume: n[7], Article: n[8], Index: n[9]}, N: n[10], Form: n[11], Lang: n[12], Text: text, Texts: texts}
@@ -156,5 +131,5 @@ func Decode(b []byte) (api.Op, int, api.Errno) {
 	for i := 0; i < len(refs); i += 3 {
 		o.Refs = append(o.Refs, api.ID{By: refs[i], Seq: refs[i+1], K: refs[i+2]})
 	}
-	return o, r.used, api.OK
+	return o, used, api.OK
 }

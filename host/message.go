@@ -5,6 +5,7 @@ import (
 
 	"passim/api"
 	"passim/archive"
+	"passim/parts"
 	"passim/wire"
 )
 
@@ -30,15 +31,14 @@ func (m message) encode() []byte {
 
 // decode returns the message with some bytes, if it is well formed for n hosts.
 func decode(b []byte, n int) (message, bool) {
-	numbers, used, e := wire.GetInts(b)
-	if e != api.OK || len(numbers) != ends+n {
+	r := parts.Of(b)
+	numbers := parts.Next(r, wire.GetInts, func(l []int) bool { return len(l) == ends+n })
+	sums := parts.Next(r, wire.GetDigests, func(l []api.Digest) bool { return len(l) == n })
+	used, e := r.Used()
+	if e != api.OK {
 		return message{}, false
 	}
-	sums, more, e := wire.GetDigests(b[used:])
-	if e != api.OK || len(sums) != n {
-		return message{}, false
-	}
-	events, e := archive.Decode(b[used+more:])
+	events, e := archive.Decode(b[used:])
 	if e != api.OK {
 		return message{}, false
 	}

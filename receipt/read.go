@@ -1,8 +1,8 @@
 package receipt
 
 import (
-	"passim/api"
 	"passim/heading"
+	"passim/parts"
 	"passim/span"
 	"passim/wire"
 )
@@ -15,26 +15,14 @@ type reader struct {
 	whole   func() bool // whether all could be read, and nothing follows
 }
 
-// part reads a part of some bytes.
-func part[T any](rest *[]byte, ok *bool, get func([]byte) (T, int, api.Errno)) T {
-	x, n, e := get(*rest)
-	*ok = *ok && e == api.OK
-	if !*ok {
-		var zero T
-		return zero
-	}
-	*rest = (*rest)[n:]
-	return x
-}
-
 // readerOf returns the reader of a value.
 func readerOf(v string) reader {
-	rest, ok := []byte(v), true
+	r := parts.Of([]byte(v))
 	return reader{
-		numbers: func() []int { return part(&rest, &ok, wire.GetInts) },
-		number:  func() int { return part(&rest, &ok, wire.GetInt) },
-		texts:   func() []string { return part(&rest, &ok, wire.GetStrings) },
-		whole:   func() bool { return ok && len(rest) == 0 },
+		numbers: func() []int { return parts.Next(r, wire.GetInts, parts.Any) },
+		number:  func() int { return parts.Next(r, wire.GetInt, parts.Any) },
+		texts:   func() []string { return parts.Next(r, wire.GetStrings, parts.Any) },
+		whole:   r.Whole,
 	}
 }
 

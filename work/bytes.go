@@ -2,6 +2,7 @@ package work
 
 import (
 	"passim/api"
+	"passim/parts"
 	"passim/wire"
 )
 
@@ -31,49 +32,29 @@ func encodePassage(p api.Passage) []byte {
 	return append(b, wire.Ints(refs)...)
 }
 
-// reader reads the parts of an encoding, up to the first error.
-type reader struct {
-	b    []byte
-	used int
-	err  api.Errno
-}
-
-// read reads a part with a function of package wire, and returns the zero value behind an error.
-func read[T any](r *reader, get func([]byte) (T, int, api.Errno), fits func(T) bool) T {
-	var zero T
-	if r.err != api.OK {
-		return zero
-	}
-	x, n, e := get(r.b[r.used:])
-	if e == api.OK && !fits(x) {
-		e = api.ErrForm
-	}
-	if r.err = e; e != api.OK {
-		return zero
-	}
-	r.used += n
-	return x
-}
+// reader reads the parts of an encoding.
+type reader struct{ *parts.Reader }
 
 // each reads a number, and then as many elements.
-func (r *reader) each(element func()) {
-	n := read(r, wire.GetInt, func(n int) bool { return n >= 0 })
-	for i := 0; i < n && r.err == api.OK; i++ {
+func (r reader) each(element func()) {
+	n := parts.Next(r.Reader, wire.GetInt, func(n int) bool { return n >= 0 })
+	for range n {
+		if _, e := r.Used(); e != api.OK {
+			return
+		}
 		element()
 	}
 }
 
 // text reads a byte string.
-func (r *reader) text() string {
-	return read(r, wire.GetBytes, func(string) bool { return true })
-}
+func (r reader) text() string { return parts.Next(r.Reader, wire.GetBytes, parts.Any) }
 
 // passage reads a passage.
-func (r *reader) passage() api.Passage {
-	n := read(r, wire.GetInts, func(l []int) bool { return len(l) == 5 })
+func (r reader) passage() api.Passage {
+	n := parts.Next(r.Reader, wire.GetInts, func(l []int) bool { return len(l) == 5 })
 	text := r.text()
-	refs := read(r, wire.GetInts, func(l []int) bool { return len(l)%3 == 0 })
-	if r.err != api.OK {
+	refs := parts.Next(r.Reader, wire.GetInts, func(l []int) bool { return len(l)%3 == 0 })
+	if _, e := r.Used(); e != api.OK {
 		return api.Passage{}
 	}
 	p := api.Passage{ID: api.ID{By: n[0], Seq: n[1], K: n[2]}, Form: n[3], Lang: n[4], Text: text}
@@ -86,7 +67,7 @@ func (r *reader) passage() api.Passage {
 // Decode returns the work with whose encoding b begins, and the length of the encoding.
 func Decode(b []byte) (api.Work, int, api.Errno) {
 	var w api.Work
-	r := &reader{b: b}
+	r := reader{parts.Of(b)}
 	r.each(func() {
 		var v api.Volume
 		r.each(func() {
@@ -96,8 +77,9 @@ func Decode(b []byte) (api.Work, int, api.Errno) {
 		})
 		w.List = append(w.List, v)
 	})
-	if r.err != api.OK {
-		return api.Work{}, 0, r.err
+	used, e := r.Used()
+	if e != api.OK {
+		return api.Work{}, 0, e
 	}
-	return w, r.used, api.OK
+	return w, used, api.OK
 }
