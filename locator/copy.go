@@ -77,9 +77,12 @@ func Of(x printing.Issue, state int, ids []api.ID) ([]Locator, api.Errno) {
 		return nil, e
 	}
 	// wanted has the passages that no range names so far.
-	wanted, pages := map[api.ID]bool{}, leaves(c)
+	wanted, stands, pages := map[api.ID]bool{}, map[api.ID]bool{}, leaves(c)
+	for _, id := range printing.Has(c) {
+		stands[id] = true
+	}
 	for _, id := range ids {
-		if len(printing.Where(c, id)) == 0 {
+		if !stands[id] {
 			return nil, api.ErrNone
 		}
 		wanted[id] = true
