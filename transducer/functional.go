@@ -31,30 +31,46 @@ func (n pair) write(p, q int, x, y string) pair {
 
 // square is a machine whose runs are followed in pairs.
 type square struct {
-	arcs  [][]Arc
+	arcs  []map[string][]Arc // for each state the arcs that begin there, by what they read
 	final []bool
 	seen  map[[2]int][]pair
 }
 
-// steps yields what leads from a pair to others if both runs read the byte c, or, with silent, one of them reads nothing.
-func (s *square) steps(n pair, c byte, silent bool) iter.Seq[pair] {
+// squareOf returns the square of a machine.
+func squareOf(m Machine) *square {
+	s := &square{arcs: make([]map[string][]Arc, m.States), final: finals(m), seen: map[[2]int][]pair{}}
+	for q := range s.arcs {
+		s.arcs[q] = map[string][]Arc{}
+	}
+	for _, a := range m.Arcs {
+		s.arcs[a.From][a.In] = append(s.arcs[a.From][a.In], a)
+	}
+	return s
+}
+
+// read yields what leads from a pair to others if both runs read a byte.
+func (s *square) read(n pair, in string) iter.Seq[pair] {
 	return func(yield func(pair) bool) {
-		for _, a := range s.arcs[n.p] {
-			switch {
-			case silent && a.In == "":
-				if !yield(n.write(a.To, n.q, a.Out, "")) {
+		for _, a := range s.arcs[n.p][in] {
+			for _, b := range s.arcs[n.q][in] {
+				if !yield(n.write(a.To, b.To, a.Out, b.Out)) {
 					return
-				}
-			case !silent && a.In == string([]byte{c}):
-				for _, b := range s.arcs[n.q] {
-					if b.In == a.In && !yield(n.write(a.To, b.To, a.Out, b.Out)) {
-						return
-					}
 				}
 			}
 		}
-		for _, b := range s.arcs[n.q] {
-			if silent && b.In == "" && !yield(n.write(n.p, b.To, "", b.Out)) {
+	}
+}
+
+// silent yields what leads from a pair to others if one of both runs reads nothing.
+func (s *square) silent(n pair) iter.Seq[pair] {
+	return func(yield func(pair) bool) {
+		for _, a := range s.arcs[n.p][""] {
+			if !yield(n.write(a.To, n.q, a.Out, "")) {
+				return
+			}
+		}
+		for _, b := range s.arcs[n.q][""] {
+			if !yield(n.write(n.p, b.To, "", b.Out)) {
 				return
 			}
 		}
@@ -86,7 +102,7 @@ func (s *square) close(g *group) bool {
 		if s.final[n.p] && s.final[n.q] && (n.apart || n.x != n.y) {
 			return true
 		}
-		for next := range s.steps(n, 0, true) {
+		for next := range s.silent(n) {
 			if s.fresh(next) {
 				g.pairs = append(g.pairs, next)
 			}
@@ -104,7 +120,7 @@ func Functional(m Machine) (string, bool, api.Errno) {
 	if m.States > mostPairs {
 		return "", false, api.ErrLimit
 	}
-	s := &square{arcs: leaving(m), final: finals(m), seen: map[[2]int][]pair{}}
+	s := squareOf(m)
 	first := group{pairs: []pair{{p: m.Start, q: m.Start}}}
 	s.fresh(first.pairs[0])
 	if s.close(&first) {
@@ -112,9 +128,10 @@ func Functional(m Machine) (string, bool, api.Errno) {
 	}
 	for queue := []group{first}; len(queue) > 0; queue = queue[1:] {
 		for c := range 256 {
-			g := group{text: queue[0].text + string([]byte{byte(c)})}
+			in := string([]byte{byte(c)})
+			g := group{text: queue[0].text + in}
 			for _, n := range queue[0].pairs {
-				for next := range s.steps(n, byte(c), false) {
+				for next := range s.read(n, in) {
 					if s.fresh(next) {
 						g.pairs = append(g.pairs, next)
 					}
