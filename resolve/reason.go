@@ -2,7 +2,6 @@ package resolve
 
 import (
 	"passim/api"
-	"passim/event"
 	"passim/printing"
 	"passim/work"
 )
@@ -101,8 +100,8 @@ func (r *resolver) lastCause(id api.ID) api.Name {
 	}
 	var last api.Name
 	for _, e := range r.h.Events() {
-		if causes[event.Name(e)] {
-			last = event.Name(e)
+		if n := (api.Name{By: e.By, Seq: e.Seq}); causes[n] {
+			last = n
 		}
 	}
 	return last
@@ -115,8 +114,8 @@ func (r *resolver) firstMaker(id api.ID) api.Name {
 		makers[api.Name{By: x.By, Seq: x.Seq}] = true
 	}
 	for _, e := range r.h.Events() {
-		if makers[event.Name(e)] {
-			return event.Name(e)
+		if n := (api.Name{By: e.By, Seq: e.Seq}); makers[n] {
+			return n
 		}
 	}
 	return api.Name{}

@@ -8,7 +8,6 @@ import (
 	"passim/judge"
 	"passim/redo"
 	"passim/withhold"
-	"passim/work"
 )
 
 // The pair of people who judge each passage.
@@ -58,8 +57,12 @@ func (s *Shell) public(w *words) []string {
 // ids returns the IDs of the passages of a work.
 func ids(w api.Work) []api.ID {
 	var l []api.ID
-	for _, p := range work.All(w) {
-		l = append(l, p.ID)
+	for _, v := range w.List {
+		for _, a := range v.List {
+			for _, p := range a.List {
+				l = append(l, p.ID)
+			}
+		}
 	}
 	return l
 }
