@@ -23,6 +23,27 @@ func TestLimits(t *testing.T) {
 	}
 }
 
+func TestBack(t *testing.T) {
+	none := id(-1, 0, 0)
+	w := example()
+	w.List[0].List[0].List[1].Form = api.Para
+	for i, x := range []struct {
+		o, back api.Op
+	}{
+		{api.Op{Kind: api.OpSwap, At: id(0, 0, 0), To: id(0, 2, 0)}, api.Op{Kind: api.OpSwap, At: id(0, 0, 0), To: id(0, 2, 0)}},
+		{api.Op{Kind: api.OpRefer, At: id(0, 0, 0), Refs: []api.ID{none}}, api.Op{Kind: api.OpRefer, At: id(0, 0, 0), Refs: []api.ID{id(0, 1, 0)}}},
+		{api.Op{Kind: api.OpMove, At: id(0, 0, 0), Spot: spot(0, 0, 2)}, api.Op{Kind: api.OpMove, At: id(0, 0, 0)}},
+	} {
+		if back, ok := Inverse(w, x.o); !ok || !Same(back, x.back) {
+			t.Error("P8.4:", i, back, ok)
+		}
+	}
+	o := api.Op{Kind: api.OpInsert, Form: api.Table, Lang: 3, Text: "x @", Refs: []api.ID{none}}
+	if x, e := Do(w, o, name); e != api.OK || x.List[0].List[0].List[0].Lang != 3 || x.List[0].List[0].List[0].Form != api.Table {
+		t.Error("P8.1:", e)
+	}
+}
+
 func TestRoom(t *testing.T) {
 	w := api.Work{List: []api.Volume{{List: []api.Article{{Title: "a"}, {Title: "b", List: []api.Passage{{ID: id(5, 0, 0), Text: "a b"}}}, {Title: "c", List: []api.Passage{{ID: id(5, 1, 0), Text: "a b"}}}}}}}
 	for i := range api.MaxPassages - 2 {

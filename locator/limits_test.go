@@ -39,8 +39,10 @@ func TestLimits(t *testing.T) {
 			t.Error("P20.3:", e)
 		}
 	}
-	if e := Valid(Locator{"e0l", 7, []Range{pages(999, 999)}}); e != api.OK {
-		t.Error("P20.1:", e)
+	for _, mark := range []string{"e0l", "e9", "e9al", "e10b", "e1abc"} {
+		if e := Valid(Locator{mark, 7, []Range{pages(999, 999)}}); e != api.OK {
+			t.Error("P20.1:", mark, e)
+		}
 	}
 }
 

@@ -10,7 +10,7 @@ func TestTests(t *testing.T) {
 	w := passages(api.Passage{ID: a, Text: "Anna. Anna anna. Rome."}, api.Passage{ID: b, Text: "x"})
 	for test, want := range map[string]bool{
 		"notes = 0": true, "sentences = 2": true, "1 = 1 and 1 = 2": false, "1 = 2 and 1 = 1": false, "1 = 1 or 1 = 2": true, "1 = 2 or 1 = 1": true, "1 = 2 or 2 = 1": false, "1 = 1 and 2 = 2": true,
-		"2 < 3": true, "3 <= 2": false, "some sentence [mentions = 3]": false, "every sentence [mentions < 3]": true, "some sentence [mentions = 0 and tokens = 2]": true,
+		"2 < 3": true, "3 <= 2": false, "some sentence [mentions = 3]": false, "every sentence [mentions < 3]": true, "every sentence [mentions = 2 or tokens = 2]": true, "some sentence [mentions = 1 and tokens = 2]": true, "some sentence [mentions = 0 and tokens = 2]": true,
 	} {
 		p := load(t, "rule r each term demand post if "+test)
 		l, e := p.Demands(w, []api.Term{{Name: "anna"}})

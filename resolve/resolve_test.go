@@ -110,6 +110,17 @@ func TestReasons(t *testing.T) {
 	}
 }
 
+// TestForeign has a passage on a page that is none of the edition.
+func TestForeign(t *testing.T) {
+	h := example(t)
+	from := issue(h, 0)
+	from.Pages[0].Lines = append(from.Pages[0].Lines, page.Line{ID: id(5, 5, 5), Text: "x"})
+	got, e := Resolve(h, from, 0, issue(h, 1), 0, one("e0", 1, 1), nil)
+	if want := (Answer{Found: []Found{{id(0, 4, 0), []api.ID{id(0, 2, 0)}, []int{0}}}}); !Same(got, want) || e != api.OK {
+		t.Error("P21.2:", got, e)
+	}
+}
+
 func TestErrors(t *testing.T) {
 	h := example(t)
 	a, b := issue(h, 0), issue(h, 1)
