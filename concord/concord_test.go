@@ -1,6 +1,7 @@
 package concord
 
 import (
+	"math"
 	"math/rand"
 	"slices"
 	"strings"
@@ -94,7 +95,7 @@ func TestErrors(t *testing.T) {
 		text     string
 		k, width int
 		e        api.Errno
-	}{{page.Style{}, "", 0, 0, api.ErrArg}, {style, "a  b", 9, 0, api.ErrForm}, {style, "a b", 2, 0, api.ErrRange}, {style, "a b", -1, 0, api.ErrRange}, {style, "a b", 0, 0, api.ErrWide}, {style, "a b", 0, -9, api.ErrWide}, {style, "a b", 0, 1, api.OK}, {page.Style{Width: 9, Height: 9, Wide: "a"}, "a b", 0, 1, api.ErrWide}} {
+	}{{page.Style{}, "", 0, 0, api.ErrArg}, {style, "a  b", 9, 0, api.ErrForm}, {style, "a b", 2, 0, api.ErrRange}, {style, "a b", -1, 0, api.ErrRange}, {style, "a b", 0, 0, api.ErrWide}, {style, "a b", 0, -9, api.ErrWide}, {style, "a b", 0, 1, api.OK}, {page.Style{Width: 9, Height: 9, Wide: "a"}, "a b", 0, 1, api.ErrWide}, {style, "a b", 0, math.MaxInt, api.OK}} {
 		if l, e := Context(x.s, x.text, x.k, x.width); e != x.e || e != api.OK && l != (Line{}) {
 			t.Error("P34.4:", i, e)
 		}
@@ -107,6 +108,28 @@ func TestErrors(t *testing.T) {
 	}{{bad, page.Style{}, nil, api.ErrTwice}, {example(), page.Style{}, []Hit{{ID: api.ID{By: 5}}}, api.ErrArg}, {example(), style, []Hit{{ID: api.ID{By: 5}}, {a, 99, ""}}, api.ErrNone}, {example(), style, []Hit{{a, 99, ""}, {ID: api.ID{By: 5}}}, api.ErrRange}, {example(), style, []Hit{{a, 3, ""}}, api.ErrWide}} {
 		if l, e := Lines(x.w, x.s, x.hits, 4); len(l) > 0 || e != x.e {
 			t.Error("P34.4:", i, e)
+		}
+	}
+}
+
+// TestWidths has widths of any value, for a Key that is 5 wide.
+func TestWidths(t *testing.T) {
+	text := "The kings of Rome, odes"
+	for _, width := range []int{math.MinInt, math.MinInt + 1, math.MinInt + 4, math.MinInt + 5, math.MinInt + 6, math.MinInt + 4096, -1, 0, 4} {
+		if l, e := Context(style, text, 3, width); l != (Line{}) || e != api.ErrWide {
+			t.Error("P34.4:", width, l, e)
+		}
+		if l, e := Lines(example(), style, []Hit{{a, 3, ""}}, width); len(l) > 0 || e != api.ErrWide {
+			t.Error("P34.4:", width, l, e)
+		}
+	}
+	want := Line{"The kings of", "Rome,", "odes"}
+	for _, width := range []int{len(text), len(text) + 1, math.MaxInt - 1, math.MaxInt} {
+		if l, e := Context(style, text, 3, width); l != want || e != api.OK {
+			t.Error("P34.4:", width, l, e)
+		}
+		if l, e := Lines(example(), style, []Hit{{a, 3, ""}}, width); !slices.Equal(l, []Line{want}) || e != api.OK {
+			t.Error("P34.4:", width, l, e)
 		}
 	}
 }
