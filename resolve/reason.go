@@ -6,6 +6,13 @@ import (
 	"passim/work"
 )
 
+// loss is the error that says why a passage is lost.
+type loss interface {
+	error
+	// kind returns the Kind of the reason.
+	kind() int
+}
+
 // cut says that a passage was taken away before the edition of the copy.
 type cut struct{ event api.Name }
 
@@ -30,25 +37,32 @@ func (withheld) Error() string { return "the passage is withheld" }
 func (absent) Error() string   { return "the passage stands on missing pages" }
 func (gone) Error() string     { return "the passage stands on no page" }
 
+func (cut) kind() int      { return Cut }
+func (later) kind() int    { return Later }
+func (withheld) kind() int { return Held }
+func (absent) kind() int   { return Lost }
+func (gone) kind() int     { return Gone }
+
 // reason returns the reason for a passage that is lost, given the error that says why.
-func reason(from api.ID, err error) Reason {
-	switch e := err.(type) {
+func reason(from api.ID, why loss) Reason {
+	r := Reason{From: from, Kind: why.kind()}
+	switch e := why.(type) {
 	case cut:
-		return Reason{From: from, Kind: Cut, Event: e.event}
+		r.Event = e.event
 	case later:
-		return Reason{From: from, Kind: Later, Event: e.event}
+		r.Event = e.event
 	case withheld:
-		return Reason{From: from, Kind: Held, ID: e.id}
+		r.ID = e.id
 	case absent:
-		return Reason{From: from, Kind: Lost, ID: e.id, At: e.at}
+		r.ID, r.At = e.id, e.at
 	case gone:
-		return Reason{From: from, Kind: Gone, ID: e.id}
+		r.ID = e.id
 	}
-	return Reason{From: from}
+	return r
 }
 
 // why returns the error that says why none of the images of a passage is found.
-func (r *resolver) why(id api.ID) error {
+func (r *resolver) why(id api.ID) loss {
 	l := work.Order(r.after, r.images[id])
 	switch {
 	case len(l) == 0 && r.k >= r.i:
