@@ -44,8 +44,8 @@ func TestDigits(t *testing.T) {
 	}
 }
 
-// slowRoot makes the public key level by level, as the chapter defines it.
-func slowRoot(height int) api.Digest {
+// slowTree makes the nodes of a tree level by level, as the chapter defines them.
+func slowTree(seed string, height int) [][]api.Digest {
 	var row []api.Digest
 	for i := range 1 << height {
 		all := ""
@@ -60,19 +60,21 @@ func slowRoot(height int) api.Digest {
 		key := hash.Of(api.TagKey, all)
 		row = append(row, hash.Of(api.TagLeaf, string(key[:])))
 	}
+	all := [][]api.Digest{row}
 	for len(row) > 1 {
 		var up []api.Digest
 		for i := 0; i < len(row); i += 2 {
 			up = append(up, hash.Of(api.TagNode, string(row[i][:]), string(row[i+1][:])))
 		}
 		row = up
+		all = append(all, row)
 	}
-	return row[0]
+	return all
 }
 
 func TestPublic(t *testing.T) {
 	for h := range 4 {
-		if d, e := Public(seed, h); d != slowRoot(h) || e != api.OK {
+		if d, e := Public(seed, h); d != slowTree(seed, h)[h][0] || e != api.OK {
 			t.Error("P3.1:", h, d, e)
 		}
 	}
@@ -136,6 +138,28 @@ func TestSignature(t *testing.T) {
 		}
 		if s[2+16*c:18+16*c] != v {
 			t.Error("P3.3: the chain", c)
+		}
+	}
+}
+
+func TestNodesOfSignature(t *testing.T) {
+	for _, seed := range []string{seed, strings.Repeat("\x05", 32)} {
+		for height := range 4 {
+			tree := slowTree(seed, height)
+			for index := range 1 << height {
+				s, _ := Sign(seed, height, index, "m")
+				nodes := ""
+				for level := range height {
+					d := tree[level][index>>level^1]
+					nodes += string(d[:])
+				}
+				if len(s) < 68*16+len(nodes) || s[len(s)-len(nodes):] != nodes {
+					t.Error("P3.3: the nodes next to the way:", height, index)
+				}
+				if i, e := Verify(tree[height][0], height, "m", s); i != index || e != api.OK {
+					t.Error("P3.5:", height, index, i, e)
+				}
+			}
 		}
 	}
 }
